@@ -1,0 +1,77 @@
+package tests
+
+import (
+	"math/rand"
+	"slices"
+	"testing"
+
+	"loop.example/headrace/impl"
+)
+
+// guarded is a list with room behind its end, and what all of that room holds.
+func guarded(l []impl.Node) ([]impl.Node, []impl.Node) {
+	room := slices.Clone(l)
+	for i := range 12 {
+		room = append(room, impl.Node{Kind: impl.NodeName, Num: -i, Name: "guard", Kids: i})
+	}
+	return room[:len(l):len(room)], slices.Clone(room)
+}
+
+// spoil writes into all that a list has, its spare room too.
+func spoil[T any](l []T, with T) {
+	l = l[:cap(l)]
+	for i := range l {
+		l[i] = with
+	}
+}
+
+func TestNothingIsWrittenIntoArguments(t *testing.T) {
+	r := rand.New(rand.NewSource(8))
+	for i := range 3000 {
+		l := randomTree(r, 1+r.Intn(30), 1+r.Intn(8))
+		if i%3 == 0 {
+			l = l[:len(l)-1]
+		}
+		arg, want := guarded(l)
+		impl.TreeOk(arg)
+		impl.TreeDeep(arg)
+		impl.TreeShow(arg)
+		spoil(impl.TreeFree(arg), "spoilt")
+		for at := -1; at <= len(arg); at++ {
+			impl.TreeEnd(arg, at)
+		}
+		if !slices.Equal(arg[:cap(arg)], want) {
+			t.Fatalf("%v became %v", want, arg[:cap(arg)])
+		}
+	}
+}
+
+func TestAnswersAreNewMemory(t *testing.T) {
+	for _, text := range []string{"x", "let a = b in a + c * d", "rep n as i from z by if i > y then i + 1 else x", "min(a, b) - abs(c)"} {
+		words, _ := impl.BodyWords(text)
+		wantWords := slices.Clone(words)
+		other, _ := impl.BodyWords(text)
+		spoil(other, impl.Word{Kind: 9, Text: "spoilt", At: -1})
+		if again, _ := impl.BodyWords(text); !slices.Equal(words, wantWords) || !slices.Equal(again, wantWords) {
+			t.Fatalf("%q: words that share memory", text)
+		}
+
+		tree, _ := impl.TreeRead(text)
+		wantTree := slices.Clone(tree)
+		second, _ := impl.TreeRead(text)
+		spoil(second, impl.Node{Kind: 99})
+		if again, _ := impl.TreeRead(text); !slices.Equal(tree, wantTree) || !slices.Equal(again, wantTree) {
+			t.Fatalf("%q: trees that share memory", text)
+		}
+
+		free := impl.TreeFree(tree)
+		wantFree := slices.Clone(free)
+		spoil(impl.TreeFree(tree), "spoilt")
+		shown := impl.TreeShow(tree)
+		wantShown := string([]byte(shown))
+		spoil(tree, impl.Node{Kind: 99, Name: "spoilt"})
+		if !slices.Equal(free, wantFree) || shown != wantShown {
+			t.Fatalf("%q: answers that share memory with an argument", text)
+		}
+	}
+}
