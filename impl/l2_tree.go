@@ -545,6 +545,10 @@ func TreeFree(t []Node) []string {
 	if !ok {
 		return nil
 	}
+	return freeNames(f)
+}
+
+func freeNames(f form) []string {
 	names := appendFree(nil, f, nil)
 	slices.Sort(names)
 	return slices.Compact(names)

@@ -17,6 +17,15 @@ func guarded(l []impl.Node) ([]impl.Node, []impl.Node) {
 	return room[:len(l):len(room)], slices.Clone(room)
 }
 
+// guardedBinds are binds with room behind their end, and what all of that room holds.
+func guardedBinds(b []impl.Bind) ([]impl.Bind, []impl.Bind) {
+	room := slices.Clone(b)
+	for i := range 50 {
+		room = append(room, impl.Bind{Name: "guard", Val: i})
+	}
+	return room[:len(b):len(room)], slices.Clone(room)
+}
+
 // spoil writes into all that a list has, its spare room too.
 func spoil[T any](l []T, with T) {
 	l = l[:cap(l)]
@@ -42,6 +51,25 @@ func TestNothingIsWrittenIntoArguments(t *testing.T) {
 		}
 		if !slices.Equal(arg[:cap(arg)], want) {
 			t.Fatalf("%v became %v", want, arg[:cap(arg)])
+		}
+	}
+}
+
+func TestNothingIsWrittenIntoBinds(t *testing.T) {
+	r := rand.New(rand.NewSource(9))
+	for i := range 3000 {
+		l, wantList := guarded(busyTree(r, 1+r.Intn(30), 1+r.Intn(8)))
+		b, wantBinds := guardedBinds(randomBinds(r))
+		if i%5 == 0 {
+			b, wantBinds = guardedBinds(bindsFor(r, l))
+		}
+		impl.BindsOk(b)
+		first := meanOf(l, b)
+		if meanOf(l, b) != first || meanOf(slices.Clone(l), slices.Clone(b)) != first {
+			t.Fatalf("%q with %v: not always %v", impl.TreeShow(l), b, first)
+		}
+		if !slices.Equal(l[:cap(l)], wantList) || !slices.Equal(b[:cap(b)], wantBinds) {
+			t.Fatalf("%q with %v became %v, %v", impl.TreeShow(l), wantBinds, l[:cap(l)], b[:cap(b)])
 		}
 	}
 }
