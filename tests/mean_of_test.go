@@ -49,9 +49,10 @@ func done(val, steps int) meant { return meant{val, steps, impl.MeanDone} }
 
 var lacking = meant{0, impl.MeanMaxSteps, impl.MeanSpent}
 
+var noTrees = [][]impl.Node{nil, {}, {{}}, num(-1), num(greatest + 1), name("or"), name(""), negs(40, num(1)), wide(401), kind(24), kind(impl.NodeAdd, num(1)), slices.Concat(num(1), num(2)), kind(impl.NodeIf, num(1), num(2)), named(impl.NodeLet, "if", num(1), num(2)), named(impl.NodeRep, "", num(1), num(2), num(3)), {{Kind: impl.NodeNum, Num: 3, Name: "x"}}, {{Kind: impl.NodeName, Num: 3, Name: "x"}}, {{Kind: impl.NodeNum, Kids: 1}, {Kind: impl.NodeNum}}}
+
 func TestMeaningsOfListsThatAreNoTrees(t *testing.T) {
-	lists := [][]impl.Node{nil, {}, {{}}, num(-1), num(greatest + 1), name("or"), name(""), negs(40, num(1)), wide(401), kind(24), kind(impl.NodeAdd, num(1)), slices.Concat(num(1), num(2)), kind(impl.NodeIf, num(1), num(2)), named(impl.NodeLet, "if", num(1), num(2)), named(impl.NodeRep, "", num(1), num(2), num(3)), {{Kind: impl.NodeNum, Num: 3, Name: "x"}}, {{Kind: impl.NodeName, Num: 3, Name: "x"}}, {{Kind: impl.NodeNum, Kids: 1}, {Kind: impl.NodeNum}}}
-	for _, l := range lists {
+	for _, l := range noTrees {
 		means(t, l, someBinds, wrong)
 		means(t, l, nil, wrong)
 		means(t, l, bound("x", "x"), wrong)

@@ -26,6 +26,15 @@ func guardedBinds(b []impl.Bind) ([]impl.Bind, []impl.Bind) {
 	return room[:len(b):len(room)], slices.Clone(room)
 }
 
+// guardedCode is code with room behind its end, and what all of that room holds.
+func guardedCode(c []impl.Ins) ([]impl.Ins, []impl.Ins) {
+	room := slices.Clone(c)
+	for i := range 50 {
+		room = append(room, impl.Ins{Op: impl.InsPush, A: i, Name: "guard"})
+	}
+	return room[:len(c):len(room)], slices.Clone(room)
+}
+
 // spoil writes into all that a list has, its spare room too.
 func spoil[T any](l []T, with T) {
 	l = l[:cap(l)]
@@ -45,7 +54,11 @@ func TestNothingIsWrittenIntoArguments(t *testing.T) {
 		impl.TreeOk(arg)
 		impl.TreeDeep(arg)
 		impl.TreeShow(arg)
+		impl.FoldConst(arg)
 		spoil(impl.TreeFree(arg), "spoilt")
+		spoil(impl.FoldTree(arg), impl.Node{Kind: 99, Name: "spoilt"})
+		code, _ := impl.CodeMake(arg)
+		spoil(code, impl.Ins{Op: 99, Name: "spoilt"})
 		for at := -1; at <= len(arg); at++ {
 			impl.TreeEnd(arg, at)
 		}
@@ -70,6 +83,58 @@ func TestNothingIsWrittenIntoBinds(t *testing.T) {
 		}
 		if !slices.Equal(l[:cap(l)], wantList) || !slices.Equal(b[:cap(b)], wantBinds) {
 			t.Fatalf("%q with %v became %v, %v", impl.TreeShow(l), wantBinds, l[:cap(l)], b[:cap(b)])
+		}
+	}
+}
+
+func TestNothingIsWrittenIntoCode(t *testing.T) {
+	r := rand.New(rand.NewSource(10))
+	for i := range 1500 {
+		c, _ := impl.CodeMake(busyTree(r, 1+r.Intn(30), 1+r.Intn(8)))
+		if i%3 == 0 {
+			c = randomCode(r)
+		}
+		if i%7 == 0 {
+			c[r.Intn(len(c))].Op = 99
+		}
+		c, wantCode := guardedCode(c)
+		b, wantBinds := guardedBinds(randomBinds(r))
+		impl.CodeOk(c)
+		shown, first := impl.CodeShow(c), runOf(c, b)
+		if runOf(c, b) != first || runOf(slices.Clone(c), slices.Clone(b)) != first || impl.CodeShow(slices.Clone(c)) != shown {
+			t.Fatalf("%q with %v: not always %v", shown, b, first)
+		}
+		if !slices.Equal(c[:cap(c)], wantCode) || !slices.Equal(b[:cap(b)], wantBinds) {
+			t.Fatalf("%v with %v became %v, %v", wantCode, wantBinds, c[:cap(c)], b[:cap(b)])
+		}
+		kept := string([]byte(shown))
+		spoil(c, impl.Ins{Op: impl.InsLoad, Name: "spoilt"})
+		if shown != kept {
+			t.Fatalf("%q became %q", kept, shown)
+		}
+	}
+}
+
+func TestCodeAndFoldedTreesAreNewMemory(t *testing.T) {
+	r := rand.New(rand.NewSource(11))
+	for i := range 1500 {
+		l := busyTree(r, 1+r.Intn(30), 1+r.Intn(8))
+		if i%2 == 0 {
+			l = foldable(r, 1+r.Intn(30), 1+r.Intn(8))
+		}
+		code, _ := impl.CodeMake(l)
+		folded := impl.FoldTree(l)
+		wantCode, wantFolded := slices.Clone(code), slices.Clone(folded)
+		otherCode, _ := impl.CodeMake(l)
+		spoil(otherCode, impl.Ins{Op: 99, Name: "spoilt"})
+		spoil(impl.FoldTree(l), impl.Node{Kind: 99, Name: "spoilt"})
+		again, _ := impl.CodeMake(l)
+		if !slices.Equal(again, wantCode) || !slices.Equal(impl.FoldTree(l), wantFolded) {
+			t.Fatalf("%q: answers that share memory with each other", impl.TreeShow(l))
+		}
+		spoil(l, impl.Node{Kind: 99, Name: "spoilt"})
+		if !slices.Equal(code, wantCode) || !slices.Equal(folded, wantFolded) {
+			t.Fatal("answers that share memory with an argument")
 		}
 	}
 }
