@@ -181,8 +181,10 @@ func TestPromise34LinesAreReadAsTheirWords(t *testing.T) {
 }
 
 // likeLine is a word's line with something done to it that often leaves it another word's.
-func likeLine(r *rand.Rand) string {
-	line := modelLine(randomSay(r))
+func likeLine(r *rand.Rand) string { return bent(r, modelLine(randomSay(r))) }
+
+// bent is a line of words with, mostly, something done to one byte or word.
+func bent(r *rand.Rand, line string) string {
 	at := r.Intn(len(line))
 	switch r.Intn(6) {
 	case 0:
