@@ -7,6 +7,7 @@ import (
 	"slices"
 	"strconv"
 	"strings"
+	locks "sync"
 
 	"loop.example/headrace/impl"
 )
@@ -35,10 +36,12 @@ func modelBody(body string) ([]impl.Node, []string, bool) {
 }
 
 // readBodies keeps what was found of bodies, as the model is slow to read them, and they come again and again.
-var readBodies = map[string]struct {
+var readBodies locks.Map
+
+type readBody struct {
 	ins []string
 	ok  bool
-}{}
+}
 
 func modelIns(body string) ([]string, bool) {
 	if body == "" {
@@ -47,10 +50,11 @@ func modelIns(body string) ([]string, bool) {
 	if len(body) >= 201 {
 		return nil, false
 	}
-	known, there := readBodies[body]
+	kept, _ := readBodies.Load(body)
+	known, there := kept.(readBody)
 	if !there {
 		_, known.ins, known.ok = modelBody(body)
-		readBodies[body] = known
+		readBodies.Store(body, known)
 	}
 	if n := len(known.ins); !known.ok || n == 0 || n >= 5 {
 		return nil, false
